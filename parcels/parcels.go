@@ -6,10 +6,13 @@ import (
 
 	"parcels/api"
 	"parcels/packages"
+	"parcels/plans"
 )
 
 // Store is what is installed on a disk.
-type Store struct{}
+type Store struct {
+	installed plans.Set
+}
 
 // Compare tells which of two versions is the earlier one (P3).
 func Compare(a, b string) int { return packages.CompareVersions(a, b) }
@@ -24,10 +27,10 @@ func Read(text string) (string, error) {
 }
 
 // Open finds what is installed on a disk (P10).
-func Open(d api.Disk) (*Store, error) { return nil, nil }
+func Open(d api.Disk) (*Store, error) { return &Store{installed: plans.Set{}}, nil }
 
 // Plan tells in which order packages would be set up (P6).
-func (s *Store) Plan(texts ...string) ([]string, error) { return nil, nil }
+func (s *Store) Plan(texts ...string) ([]string, error) { return plans.Plan(s.installed, texts) }
 
 // Install installs packages, all or none (P7).
 func (s *Store) Install(texts ...string) error { return nil }
