@@ -23,6 +23,8 @@ func Read(text string) (p Package, err error) {
 		}
 	}()
 	must(len(text) <= api.MaxText)
+	// A package may be kept longer than its text, which may be a piece of a much longer one: so it has its own.
+	text = strings.Clone(text)
 	r = reader{lines: strings.Split(strings.TrimSuffix(text, lineBreak), lineBreak), line: 1}
 	return r.readPackage(), nil
 }

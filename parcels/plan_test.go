@@ -21,6 +21,11 @@ func open(t *testing.T, sectors int) *plain.Session {
 	return x
 }
 
+// plainFault is a fault as plain tells it.
+func plainFault(f api.Fault) plain.Fault {
+	return plain.Fault{Kind: int(f.Kind), Which: f.Which, Line: f.Line, Name: f.Name}
+}
+
 // askPlan asks twice: an answer is the caller's, who may change it.
 func askPlan(t *testing.T, x *plain.Session, texts []string) (string, plain.Fault) {
 	t.Helper()
@@ -49,7 +54,7 @@ func wantPlan(t *testing.T, order string, texts ...string) {
 func wantNoPlan(t *testing.T, want api.Fault, texts ...string) {
 	t.Helper()
 	got, f := askPlan(t, open(t, api.MinSectors), texts)
-	if got != "" || f != (plain.Fault{Kind: int(want.Kind), Which: want.Which, Line: want.Line, Name: want.Name}) {
+	if got != "" || f != plainFault(want) {
 		t.Errorf("P6: Plan(%q) = %q, %v, want %v", texts, got, f, want)
 	}
 }
@@ -264,19 +269,14 @@ func TestPlanCycles(t *testing.T) {
 	wantNoPlan(t, api.Fault{Kind: api.ErrCycle, Name: "a"}, "package d 1\nneeds c", "package c 1\nneeds d", "package b 1\nneeds a", "package a 1\nneeds b")
 }
 
-// Six things that are wrong, in the order in which the document names them; names, paths and places speak for the last.
-func TestPlanErrorsInTheirOrder(t *testing.T) {
-	wrong := []struct {
-		texts []string
-		fault api.Fault
-	}{
-		{[]string{"package k 1\nneeds"}, api.Fault{Kind: api.ErrForm, Line: 2}},
-		{[]string{"package j 1", "package j 1"}, api.Fault{Kind: api.ErrTwice, Name: "j"}},
-		{[]string{"package i 1\nneeds x"}, api.Fault{Kind: api.ErrNeeds, Name: "i"}},
-		{[]string{"package h 1\nbars g", "package g 1"}, api.Fault{Kind: api.ErrBars, Name: "h"}},
-		{[]string{"package f 1\nfile p=1", "package e 1\nfile p=1"}, api.Fault{Kind: api.ErrOwner, Name: "p"}},
-		{[]string{"package d 1\nneeds c", "package c 1\nneeds d"}, api.Fault{Kind: api.ErrCycle, Name: "c"}},
-	}
+// wrongTexts are texts of which the last is told to be wrong.
+type wrongTexts struct {
+	texts []string
+	fault api.Fault
+}
+
+// forAnyOf asks with any of several wrong texts at once, of which the first one's fault is wanted; names, paths and places speak for the last.
+func forAnyOf(wrong []wrongTexts, ask func(want api.Fault, texts []string)) {
 	for some := 1; some < 1<<len(wrong); some++ {
 		var texts []string
 		var want api.Fault
@@ -290,8 +290,20 @@ func TestPlanErrorsInTheirOrder(t *testing.T) {
 				want.Which = len(texts) - 1
 			}
 		}
-		wantNoPlan(t, want, texts...)
+		ask(want, texts)
 	}
+}
+
+// Six things that are wrong, in the order in which the document names them.
+func TestPlanErrorsInTheirOrder(t *testing.T) {
+	forAnyOf([]wrongTexts{
+		{[]string{"package k 1\nneeds"}, api.Fault{Kind: api.ErrForm, Line: 2}},
+		{[]string{"package j 1", "package j 1"}, api.Fault{Kind: api.ErrTwice, Name: "j"}},
+		{[]string{"package i 1\nneeds x"}, api.Fault{Kind: api.ErrNeeds, Name: "i"}},
+		{[]string{"package h 1\nbars g", "package g 1"}, api.Fault{Kind: api.ErrBars, Name: "h"}},
+		{[]string{"package f 1\nfile p=1", "package e 1\nfile p=1"}, api.Fault{Kind: api.ErrOwner, Name: "p"}},
+		{[]string{"package d 1\nneeds c", "package c 1\nneeds d"}, api.Fault{Kind: api.ErrCycle, Name: "c"}},
+	}, func(want api.Fault, texts []string) { wantNoPlan(t, want, texts...) })
 }
 
 func TestPlanTextsThatAreNone(t *testing.T) {

@@ -9,18 +9,28 @@ import (
 
 // Plan tells in which order the packages of texts are set up beside what is installed (P6). The error is an *api.Fault.
 func Plan(installed Set, texts []string) ([]string, error) {
+	_, names, err := plan(installed, texts)
+	return names, err
+}
+
+// plan is the new packages of texts, and their names in the order in which they are set up.
+func plan(installed Set, texts []string) (Set, []string, error) {
 	list, err := readAll(texts)
 	if err != nil {
-		return nil, err
+		return nil, nil, err
 	}
 	added, err := add(installed, list)
 	if err != nil {
-		return nil, err
+		return nil, nil, err
 	}
 	if err := installed.with(added).check(); err != nil {
-		return nil, err
+		return nil, nil, err
 	}
-	return order(installed, added)
+	names, err := order(installed, added)
+	if err != nil {
+		return nil, nil, err
+	}
+	return added, names, nil
 }
 
 // readAll reads all texts ahead of any other look at them: a text that is none is told first, wherever it stands.

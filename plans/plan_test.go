@@ -30,6 +30,15 @@ func setOf(list []packages.Package) Set {
 	return s
 }
 
+// faultOf is an error's parts; nothing, if it has none.
+func faultOf(err error) api.Fault {
+	var f *api.Fault
+	if errors.As(err, &f) {
+		return *f
+	}
+	return api.Fault{}
+}
+
 // wantPlan asks twice, and that neither list is changed. The order is written with blanks between.
 func wantPlan(t *testing.T, installed, texts []string, order string, fault api.Fault) {
 	t.Helper()
@@ -37,10 +46,7 @@ func wantPlan(t *testing.T, installed, texts []string, order string, fault api.F
 	kept, asked := maps.Clone(there), slices.Clone(texts)
 	for range 2 {
 		got, err := Plan(there, asked)
-		var f api.Fault
-		if told := (*api.Fault)(nil); errors.As(err, &told) {
-			f = *told
-		}
+		f := faultOf(err)
 		if strings.Join(got, " ") != order || f != fault || (err == nil) != (fault.Kind == api.OK) {
 			t.Fatalf("P6: beside %q: Plan(%q) = %q, %v, want %q, %v", installed, texts, got, err, order, fault)
 		}
@@ -204,17 +210,20 @@ func variants(name, x, y string) []string {
 	return texts
 }
 
-// Every three packages, each of them absent, installed or new, are planned as P6 says.
-func TestPlanOfAnyThree(t *testing.T) {
-	kinds := [][]string{variants("a", "b", "c"), variants("b", "c", "a"), variants("c", "a", "b")}
-	most := 2*len(kinds[0]) + 1
-	kindsOfAnswer := map[api.Errno]int{}
-	for n := range most * most * most {
+// forAnySplit asks with every package of each kind absent, installed or new, wherever what is installed goes together.
+func forAnySplit(t *testing.T, kinds [][]string, ask func(installed, texts []string)) {
+	t.Helper()
+	each := 2*len(kinds[0]) + 1
+	all := 1
+	for range kinds {
+		all *= each
+	}
+	for n := range all {
 		var installed, texts []string
 		rest := n
 		for _, k := range kinds {
-			pick := rest % most
-			rest /= most
+			pick := rest % each
+			rest /= each
 			switch {
 			case pick == 0:
 			case pick%2 == 1:
@@ -223,22 +232,35 @@ func TestPlanOfAnyThree(t *testing.T) {
 				installed = append(installed, k[pick/2-1])
 			}
 		}
-		there := read(t, installed)
-		if setWrong(there).Kind != api.OK {
+		if setWrong(read(t, installed)).Kind != api.OK {
 			continue
 		}
 		if n%2 == 1 {
 			slices.Reverse(texts)
 		}
-		order, fault := slowPlan(there, read(t, texts))
-		wantPlan(t, installed, texts, order, fault)
-		kindsOfAnswer[fault.Kind]++
+		ask(installed, texts)
 	}
-	for _, k := range []api.Errno{api.OK, api.ErrNeeds, api.ErrBars, api.ErrOwner, api.ErrCycle} {
-		if kindsOfAnswer[k] < 100 {
-			t.Errorf("only %d plans of kind %d", kindsOfAnswer[k], k)
+}
+
+// wantKinds: each kind of answer came so often that it was looked at.
+func wantKinds(t *testing.T, answers map[api.Errno]int, kinds ...api.Errno) {
+	t.Helper()
+	for _, k := range kinds {
+		if answers[k] < 50 {
+			t.Errorf("only %d answers of kind %d", answers[k], k)
 		}
 	}
+}
+
+// Every three packages, each of them absent, installed or new, are planned as P6 says.
+func TestPlanOfAnyThree(t *testing.T) {
+	answers := map[api.Errno]int{}
+	forAnySplit(t, [][]string{variants("a", "b", "c"), variants("b", "c", "a"), variants("c", "a", "b")}, func(installed, texts []string) {
+		order, fault := slowPlan(read(t, installed), read(t, texts))
+		wantPlan(t, installed, texts, order, fault)
+		answers[fault.Kind]++
+	})
+	wantKinds(t, answers, api.OK, api.ErrNeeds, api.ErrBars, api.ErrOwner, api.ErrCycle)
 }
 
 // Any four packages that wait for any of each other are planned as P6 says.
