@@ -5,14 +5,15 @@ import (
 	"iter"
 
 	"parcels/api"
+	"parcels/disks"
 	"parcels/packages"
 	"parcels/plans"
 )
 
 // Store is what is installed on a disk.
 type Store struct {
-	installed plans.Set // never changed: a call that changes what is installed puts another one here
-	room      int
+	disk      *disks.Known
+	installed plans.Set // as it lies on the disk; never changed: a call that changes what is installed puts another one here
 }
 
 // Compare tells which of two versions is the earlier one (P3).
@@ -29,16 +30,8 @@ func Read(text string) (string, error) {
 
 // Open finds what is installed on a disk (P10).
 func Open(d api.Disk) (*Store, error) {
-	return &Store{installed: plans.Set{}, room: room(d)}, nil
-}
-
-// room is how many bytes of packages a disk may hold. (No disk at all has no sectors, so that Open need not panic.)
-func room(d api.Disk) int {
-	sectors := 0
-	if d != nil {
-		sectors = d.Sectors()
-	}
-	return 24 * (sectors - 8)
+	disk, texts := disks.Open(d)
+	return &Store{disk: disk, installed: plans.Found(texts)}, nil
 }
 
 // Plan tells in which order packages would be set up (P6).
@@ -46,21 +39,23 @@ func (s *Store) Plan(texts ...string) ([]string, error) { return plans.Plan(s.in
 
 // Install installs packages, all or none (P7).
 func (s *Store) Install(texts ...string) error {
-	all, err := plans.Install(s.installed, texts, s.room)
-	if err != nil {
-		return err
-	}
-	s.installed = all
-	return nil
+	all, err := plans.Install(s.installed, texts, s.disk.Room())
+	return s.change(all, err)
 }
 
 // Remove removes packages, all or none (P8).
 func (s *Store) Remove(names ...string) error {
 	left, err := plans.Remove(s.installed, names)
-	if err != nil {
-		return err
+	return s.change(left, err)
+}
+
+// change makes this what is installed, unless it was refused.
+func (s *Store) change(next plans.Set, refused error) error {
+	if refused != nil {
+		return refused
 	}
-	s.installed = left
+	s.disk.Save(next.Texts())
+	s.installed = next
 	return nil
 }
 
@@ -74,4 +69,4 @@ func (s *Store) Packages() iter.Seq2[string, string] {
 func (s *Store) Owner(path string) (string, bool) { return s.installed.Owner(path) }
 
 // Fill tells how full the disk is (P9).
-func (s *Store) Fill() float64 { return float64(s.installed.Size()) / float64(s.room) }
+func (s *Store) Fill() float64 { return float64(s.installed.Size()) / float64(s.disk.Room()) }

@@ -7,6 +7,15 @@ import (
 	"parcels/api"
 )
 
+// Found is what is installed on a disk where these texts lie (P10). They are not planned anew: what went together when it was installed may wait for each other by now, where something else is gone. Texts that are none were written by no store, and nothing is installed.
+func Found(texts []string) Set {
+	found, err := addAll(Set{}, texts)
+	if err != nil {
+		return Set{}
+	}
+	return found
+}
+
 // Install is what is installed when the packages of texts are, too (P7). It is a new set, so that whoever is refused still has the old one as it was. The error is an *api.Fault.
 func Install(installed Set, texts []string, room int) (Set, error) {
 	added, _, err := plan(installed, texts)

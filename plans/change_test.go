@@ -99,3 +99,29 @@ func TestInstallOfAnyTwo(t *testing.T) {
 	})
 	wantKinds(t, answers, api.OK, api.ErrNeeds, api.ErrBars, api.ErrOwner, api.ErrCycle, api.ErrSpace)
 }
+
+// What lies on a disk is found as it was, though Plan would refuse it; texts that no store wrote are nothing.
+func TestFound(t *testing.T) {
+	for _, texts := range [][]string{
+		nil,
+		{"package a 1"},
+		{"package a 1\nneeds b | c", "package b 1\nneeds a"},
+		{"package a 1\nneeds a\nbars a (>> 1)\nfile x=", "package b 1\nfile y=1\nfile z/y=\x00"},
+	} {
+		found := Found(texts)
+		if want := setOf(read(t, texts)); !reflect.DeepEqual(found, want) || !slices.Equal(found.Texts(), texts) {
+			t.Errorf("P10: of %q are found %v, want %v", texts, found, want)
+		}
+	}
+	for _, texts := range [][]string{
+		{""},
+		{"package a 1", ""},
+		{"package a 1", "package b 1\n\n"},
+		{"package a 1", "package b 1", "package a 1"},
+		{"package a 1", strings.Repeat("\x00", api.MaxText+1)},
+	} {
+		if found := Found(texts); found == nil || len(found) > 0 {
+			t.Errorf("P10: of %q are found %v", texts, found)
+		}
+	}
+}

@@ -15,11 +15,7 @@ func Plan(installed Set, texts []string) ([]string, error) {
 
 // plan is the new packages of texts, and their names in the order in which they are set up.
 func plan(installed Set, texts []string) (Set, []string, error) {
-	list, err := readAll(texts)
-	if err != nil {
-		return nil, nil, err
-	}
-	added, err := add(installed, list)
+	added, err := addAll(installed, texts)
 	if err != nil {
 		return nil, nil, err
 	}
@@ -31,6 +27,15 @@ func plan(installed Set, texts []string) (Set, []string, error) {
 		return nil, nil, err
 	}
 	return added, names, nil
+}
+
+// addAll makes a set of the new packages of texts. The error is ErrForm or ErrTwice.
+func addAll(installed Set, texts []string) (Set, error) {
+	list, err := readAll(texts)
+	if err != nil {
+		return nil, err
+	}
+	return add(installed, list)
 }
 
 // readAll reads all texts ahead of any other look at them: a text that is none is told first, wherever it stands.

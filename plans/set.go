@@ -26,6 +26,15 @@ func (s Set) Each(yield func(name, text string) bool) {
 	}
 }
 
+// Texts are the one forms, by name.
+func (s Set) Texts() []string {
+	var texts []string
+	for _, text := range s.Each {
+		texts = append(texts, text)
+	}
+	return texts
+}
+
 // Owner is the package to which a path belongs, if there is one. (No path of a set that goes together belongs to two.)
 func (s Set) Owner(path string) (string, bool) {
 	for name, p := range s {
